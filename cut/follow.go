@@ -45,10 +45,10 @@ func amountsOf(list []int) amounts {
 }
 
 // drawn returns what some thousandths of each part take of it.
-func (left amounts) drawn(thousandths []int) amounts {
+func (a amounts) drawn(shares []int) amounts {
 	var taken amounts
-	for part := range len(thousandths) {
-		taken[part] = left[part] * thousandths[part] / api.CutWhole
+	for part := range len(shares) {
+		taken[part] = a[part] * shares[part] / api.CutWhole
 	}
 	return taken
 }
